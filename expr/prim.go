@@ -2,13 +2,14 @@ package expr
 
 import (
 	"fleuron/api"
+	"fleuron/cursor"
 	"fleuron/num"
 )
 
 // prim parses what binds most: everything between two operations.
 func (p *parser) prim() api.Expr {
 	x := p.unmediated()
-	for p.ahead() == "[" {
+	for p.Ahead() == "[" {
 		p.enter()
 		x = p.between(x, p.expr(false))
 	}
@@ -17,7 +18,7 @@ func (p *parser) prim() api.Expr {
 
 // between parses the rest of a mediation, behind the first expression in its brackets.
 func (p *parser) between(x, from api.Expr) api.Expr {
-	p.demand(",")
+	p.Demand(",")
 	to := p.expr(false)
 	p.leaveBy("]")
 	return combined(api.EBetween, "", x, from, to)
@@ -25,7 +26,7 @@ func (p *parser) between(x, from api.Expr) api.Expr {
 
 // unmediated parses a prim up to where a mediation of it can begin.
 func (p *parser) unmediated() api.Expr {
-	s := p.ahead()
+	s := p.Ahead()
 	switch {
 	case s == "(":
 		return p.inBrackets()
@@ -34,7 +35,7 @@ func (p *parser) unmediated() api.Expr {
 	case isOf(s):
 		return p.of()
 	}
-	t := p.take()
+	t := p.Take()
 	switch {
 	case t.Kind == api.TokName:
 		return p.variable(t)
@@ -43,7 +44,7 @@ func (p *parser) unmediated() api.Expr {
 	case t.Kind == api.TokText:
 		return beginning(t, api.EText, t.Text)
 	case !isConstant(s):
-		fail(api.ErrSyntax, t)
+		cursor.Fail(api.ErrSyntax, t)
 	}
 	return beginning(t, api.EUnary, t.Text)
 }
@@ -52,7 +53,7 @@ func (p *parser) unmediated() api.Expr {
 func (p *parser) inBrackets() api.Expr {
 	t := p.enter()
 	x := p.expr(true)
-	if p.skip(",") {
+	if p.Skip(",") {
 		x = beginning(t, api.EPair, "", x, p.expr(true))
 	}
 	p.leaveBy(")")
@@ -71,7 +72,7 @@ func (p *parser) unary() api.Expr {
 func (p *parser) of() api.Expr {
 	t := p.enter()
 	x := p.expr(false)
-	p.demand("of")
+	p.Demand("of")
 	y := p.prim()
 	p.leave()
 	return beginning(t, api.EBinary, t.Text, x, y)
@@ -83,13 +84,13 @@ func (p *parser) variable(t api.Token) api.Expr {
 	for {
 		switch {
 		case p.isNumber(0):
-			x.Kids = append(x.Kids, numeral(p.take()))
-		case p.ahead() == ".":
+			x.Kids = append(x.Kids, numeral(p.Take()))
+		case p.Ahead() == ".":
 			x.Kids = append(x.Kids, p.dot())
-		case p.ahead() == "[":
+		case p.Ahead() == "[":
 			p.enter()
 			inner := p.expr(false)
-			if p.ahead() == "," {
+			if p.Ahead() == "," {
 				return p.between(x, inner)
 			}
 			p.leaveBy("]")
@@ -102,11 +103,8 @@ func (p *parser) variable(t api.Token) api.Expr {
 
 // dot parses a suffix that is a name.
 func (p *parser) dot() api.Expr {
-	point := p.take()
-	name := p.take()
-	if name.Kind != api.TokName {
-		fail(api.ErrSyntax, name)
-	}
+	point := p.Take()
+	name := p.Name()
 	return beginning(point, api.EDot, name.Text)
 }
 
@@ -120,11 +118,11 @@ func numeral(t api.Token) api.Expr {
 // number parses what follows a number: one by which it is divided, and a prim that it is multiplied by.
 func (p *parser) number(t api.Token) api.Expr {
 	x := numeral(t)
-	if p.ahead() == "/" && p.isNumber(1) {
-		p.take()
-		x.Num = quotient(t, p.take())
+	if p.Ahead() == "/" && p.isNumber(1) {
+		p.Take()
+		x.Num = quotient(t, p.Take())
 	} else {
-		p.undivided = p.at
+		p.undivided = p.At
 	}
 	if p.factorAhead() {
 		return combined(api.EBinary, "*", x, p.prim())
@@ -138,19 +136,19 @@ func quotient(t, by api.Token) api.Num {
 	switch e {
 	case api.OK:
 	case api.ErrZero:
-		fail(e, by)
+		cursor.Fail(e, by)
 	default:
-		fail(e, t)
+		cursor.Fail(e, t)
 	}
 	return q
 }
 
 // factorAhead reports whether a prim comes next that multiplies the number ahead of it.
 func (p *parser) factorAhead() bool {
-	if p.at == len(p.tokens) {
+	if p.At == len(p.Tokens) {
 		return false
 	}
-	t := p.tokens[p.at]
+	t := p.Tokens[p.At]
 	switch t.Kind {
 	case api.TokName, api.TokText:
 		return true

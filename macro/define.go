@@ -1,6 +1,9 @@
 package macro
 
-import "fleuron/api"
+import (
+	"fleuron/api"
+	"fleuron/cursor"
+)
 
 // meaning is what a name means: a word, a macro or a variable.
 type meaning interface{ meaning() }
@@ -86,13 +89,13 @@ func (e *expander) define() {
 func (e *expander) readParameters(places map[string]piece) parameters {
 	kind := e.readName()
 	if kind.Text != "expr" && kind.Text != "text" {
-		fail(api.ErrSyntax, kind)
+		cursor.Fail(api.ErrSyntax, kind)
 	}
 	group := parameters{text: kind.Text == "text"}
 	for {
 		name := e.readName()
 		if places[name.Text].argument > 0 {
-			fail(api.ErrTwice, name)
+			cursor.Fail(api.ErrTwice, name)
 		}
 		places[name.Text] = piece{argument: len(places) + 1, text: group.text}
 		group.count++
@@ -146,7 +149,7 @@ func (e *expander) replace(t api.Token, m *macro) {
 		e.lists = append(e.lists, list)
 	}
 	if len(e.lists) > maxLists {
-		fail(api.ErrDeep, t)
+		cursor.Fail(api.ErrDeep, t)
 	}
 }
 
@@ -178,7 +181,7 @@ func bracketed(open []string, t api.Token) []string {
 	case ")", "]", "}":
 		last := len(open) - 1
 		if last < 0 || open[last] != t.Text {
-			fail(api.ErrSyntax, t)
+			cursor.Fail(api.ErrSyntax, t)
 		}
 		return open[:last]
 	}
@@ -190,7 +193,7 @@ func (m *macro) list(t api.Token, arguments [][]api.Token) []api.Token {
 	var list []api.Token
 	add := func(tokens ...api.Token) {
 		if len(list)+len(tokens) > api.MaxTokens {
-			fail(api.ErrLimit, t)
+			cursor.Fail(api.ErrLimit, t)
 		}
 		list = append(list, tokens...)
 	}

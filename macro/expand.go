@@ -4,6 +4,7 @@ import (
 	"slices"
 
 	"fleuron/api"
+	"fleuron/cursor"
 	"fleuron/lex"
 )
 
@@ -33,7 +34,7 @@ type saved struct {
 
 // expanded returns an expander that has read all tokens.
 func expanded(l []api.Token) (e expander, f api.Fault) {
-	if !valid(l) {
+	if !cursor.Valid(l) {
 		return expander{}, api.Fault{Code: api.ErrArg}
 	}
 	defer func() {
@@ -61,15 +62,6 @@ func expanded(l []api.Token) (e expander, f api.Fault) {
 	return e, api.Fault{}
 }
 
-// fail ends expanding with a fault at a token.
-func fail(code api.Errno, t api.Token) {
-	name := t.Text
-	if t.Kind == api.TokNum {
-		name, _ = lex.Text([]api.Token{t})
-	}
-	panic(api.Fault{Code: code, Name: name, Line: t.Line, Col: t.Col})
-}
-
 // early ends expanding because the tokens end too early.
 func (e *expander) early() {
 	panic(api.Fault{Code: api.ErrEnd, Line: e.end.Line, Col: e.end.Col})
@@ -89,7 +81,7 @@ func (e *expander) next() (t api.Token, ok bool) {
 	}
 	e.steps++
 	if e.steps > api.MaxSteps {
-		fail(api.ErrSteps, t)
+		cursor.Fail(api.ErrSteps, t)
 	}
 	return t, true
 }
@@ -107,7 +99,7 @@ func (e *expander) read() api.Token {
 func (e *expander) readName() api.Token {
 	t := e.read()
 	if !isName(t) {
-		fail(api.ErrSyntax, t)
+		cursor.Fail(api.ErrSyntax, t)
 	}
 	return t
 }
@@ -120,7 +112,7 @@ func (e *expander) readSign(sign string) {
 // demand ends expanding unless a token is a sign.
 func demand(t api.Token, sign string) {
 	if !isSign(t, sign) {
-		fail(api.ErrSyntax, t)
+		cursor.Fail(api.ErrSyntax, t)
 	}
 }
 
@@ -170,7 +162,7 @@ func (e *expander) takeWord(t api.Token, word string) {
 	e.saving = false
 	switch {
 	case word == "enddef" || word == "endgroup" && len(e.groups) == 0:
-		fail(api.ErrSyntax, t)
+		cursor.Fail(api.ErrSyntax, t)
 	case word == "begingroup":
 		e.groups = append(e.groups, nil)
 	case word == "endgroup":
@@ -185,7 +177,7 @@ func (e *expander) takeWord(t api.Token, word string) {
 // put puts out a token of this kind and text, where t stands.
 func (e *expander) put(t api.Token, kind api.TokKind, text string) {
 	if len(e.out) == api.MaxTokens {
-		fail(api.ErrLimit, t)
+		cursor.Fail(api.ErrLimit, t)
 	}
 	t.Kind, t.Text = kind, text
 	e.out = append(e.out, t)
