@@ -8,6 +8,7 @@ import (
 
 	"fleuron/api"
 	"fleuron/expr"
+	"fleuron/sample"
 )
 
 // P5.1: where nodes are.
@@ -95,9 +96,9 @@ func TestKinds(t *testing.T) {
 
 // P5.1: each word and each sign that no expression begins with, or goes on with.
 func TestStrangers(t *testing.T) {
-	begins := strings.Fields(documentedUnary + " " + documentedOf + " " + documentedConstants + " (")
-	goesOn := strings.Fields(documentedComparisons + " " + documentedSums + " " + documentedProducts + " . .. -- { [")
-	for _, s := range strings.Fields(documentedUnary + " " + documentedOf + " " + documentedConstants + " " + documentedComparisons + " " + documentedSums + " " + documentedProducts +
+	begins := strings.Fields(sample.Unary + " " + sample.Of + " " + sample.Constants + " (")
+	goesOn := strings.Fields(sample.Comparisons + " " + sample.Sums + " " + sample.Products + " . .. -- { [")
+	for _, s := range strings.Fields(sample.Unary + " " + sample.Of + " " + sample.Constants + " " + sample.Comparisons + " " + sample.Sums + " " + sample.Products +
 		" . .. -- { [ ( ) ] } := =:| =: |=:| |=: = : ; , def enddef let begingroup endgroup save if elseif else fi for step until endfor forever exitif numeric pair boolean string transform" +
 		" path pen cycle controls tension curl of pickup fill evenfill draw withink also clip evenclip unclip beginchar endchar ligtable kern message show") {
 		l := parsed(t, s)
@@ -142,10 +143,10 @@ func TestInvalidTokens(t *testing.T) {
 // P5.1: 40 brackets and operations within each other, and one more, of one kind and of two.
 func TestDepth(t *testing.T) {
 	levels := []string{"(~)", "(b,~)", "(~,b)", "a[~]", "a[b,~]", "2[~,b]", "b{~}..c", "b..{~}c", "b{curl ~}..c", "2(~)", "a..tension (~)..b", "a..controls b and c[~]..d"}
-	for _, op := range strings.Fields(documentedUnary) {
+	for _, op := range strings.Fields(sample.Unary) {
 		levels = append(levels, op+" ~")
 	}
-	for _, op := range strings.Fields(documentedOf) {
+	for _, op := range strings.Fields(sample.Of) {
 		levels = append(levels, op+" ~ of b", op+" b of ~")
 	}
 	for _, level := range levels {

@@ -6,6 +6,7 @@ import (
 
 	"fleuron/api"
 	"fleuron/expr"
+	"fleuron/sample"
 )
 
 // P5.1: expressions are read from tokens that were written of them, with their places.
@@ -13,7 +14,7 @@ func TestWritten(t *testing.T) {
 	r := newRandom()
 	for range 20000 {
 		w := &writer{random: r}
-		x := r.tree(1 + r.IntN(5))
+		x := r.Expr(1 + r.IntN(5))
 		want := w.write(x, asCond)
 		before := slices.Clone(w.l)
 		got, f := expr.Cond(w.l)
@@ -37,7 +38,7 @@ func TestWrittenOutside(t *testing.T) {
 	r := newRandom()
 	for range 5000 {
 		w := &writer{random: r}
-		want := w.write(r.tree(1+r.IntN(5)), asExpr)
+		want := w.write(r.Expr(1+r.IntN(5)), asExpr)
 		got, f := expr.Parse(w.l)
 		if f != (api.Fault{}) || dump(got, true) != dump(want, true) {
 			t.Fatalf("Parse of %s\nis   %s, %v;\nwant %s", written(w.l), dump(got, true), f, dump(want, true))
@@ -137,7 +138,7 @@ func TestDamagedRows(t *testing.T) {
 	some := parsed(t, someTokens+" b 2 + * of ,")
 	for range 20000 {
 		w := &writer{random: r}
-		w.write(r.tree(1+r.IntN(4)), asCond)
+		w.write(r.Expr(1+r.IntN(4)), asCond)
 		l := w.l
 		at := r.IntN(len(l))
 		k := some[r.IntN(len(some))]
@@ -173,10 +174,10 @@ func TestLeft(t *testing.T) {
 	}
 	r := newRandom()
 	for range 500 {
-		rule := []string{documentedProducts, documentedSums, documentedComparisons}[r.IntN(3)]
+		rule := []string{sample.Products, sample.Sums, sample.Comparisons}[r.IntN(3)]
 		var ops []string
 		for range 2 + r.IntN(20) {
-			ops = append(ops, r.one(rule))
+			ops = append(ops, r.One(rule))
 		}
 		s, want := chain(ops)
 		if x, f := expr.Parse(parsed(t, s)); f != (api.Fault{}) || dump(x, false) != want {

@@ -6,37 +6,8 @@ import (
 	"fleuron/api"
 	"fleuron/lex"
 	"fleuron/num"
+	"fleuron/tree"
 )
-
-// parts calls see with the expressions that a node is made of, slice by slice.
-func parts(x *api.Expr, see func(l []api.Expr)) {
-	see(x.Kids)
-	for _, j := range x.Joins {
-		see(j.Leave.E)
-		see(j.A)
-		see(j.Come.E)
-	}
-}
-
-// visit calls see with an expression and all that it is made of, as long as see returns true, and reports whether it always did.
-func visit(x *api.Expr, see func(x *api.Expr) bool) bool {
-	// It does not call itself: a chain of operations is as deep as it is long.
-	waiting := []*api.Expr{x}
-	for len(waiting) > 0 {
-		last := len(waiting) - 1
-		x := waiting[last]
-		waiting = waiting[:last]
-		if !see(x) {
-			return false
-		}
-		parts(x, func(l []api.Expr) {
-			for i := range l {
-				waiting = append(waiting, &l[i])
-			}
-		})
-	}
-	return true
-}
 
 // alike reports whether two nodes differ at most in positions and in what their parts are.
 func alike(a, b *api.Expr) bool {
@@ -55,7 +26,7 @@ func alikeDirs(a, b api.Dir) bool { return a.Op == b.Op && len(a.E) == len(b.E) 
 // sound reports whether a node is valid, if its parts are.
 func sound(x *api.Expr) bool {
 	dots := false
-	parts(x, func(l []api.Expr) {
+	tree.Parts(x, func(l []api.Expr) {
 		dots = dots || slices.ContainsFunc(l, func(x api.Expr) bool { return x.Op == api.EDot })
 	})
 	switch {
@@ -85,7 +56,7 @@ func soundParts(x *api.Expr) bool {
 	case api.EPair:
 		return kids == 2 && x.Text == ""
 	case api.EUnary:
-		return kids == 0 && isConstant(x.Text) || kids == 1 && isUnary(x.Text)
+		return kids == 0 && tree.IsConstant(x.Text) || kids == 1 && tree.IsUnary(x.Text)
 	case api.EBinary:
 		return kids == 2 && isBinary(x.Text)
 	case api.EBetween:
@@ -103,7 +74,7 @@ func isToken(kind api.TokKind, text string) bool {
 
 // isBinary reports whether a word or a sign is an operation of two operands.
 func isBinary(s string) bool {
-	return isOf(s) || isProduct(s) || isSum(s) || isComparisonOrEqual(s)
+	return tree.IsOf(s) || tree.IsProduct(s) || tree.IsSum(s) || isComparisonOrEqual(s)
 }
 
 // soundPath reports whether a path has as many joins as its knots ask for, each of them sound.

@@ -8,6 +8,7 @@ import (
 
 	"fleuron/api"
 	"fleuron/expr"
+	"fleuron/sample"
 )
 
 // nodesOf returns all nodes of an expression, itself first.
@@ -91,13 +92,13 @@ func TestValid(t *testing.T) {
 		ring(api.Join{Leave: api.Dir{Op: api.DirTo, E: []api.Expr{a}}, Come: api.Dir{Op: api.DirCurl, E: []api.Expr{a}}}), ring(api.Join{Op: api.JControls, A: []api.Expr{a}, Come: api.Dir{Op: api.DirTo, E: []api.Expr{a}}}),
 		{Op: api.EVar, Text: "a", Kids: []api.Expr{}, Joins: []api.Join{}}, ring(api.Join{Op: api.JLine, A: []api.Expr{}, Leave: api.Dir{E: []api.Expr{}}}),
 	}
-	for _, s := range strings.Fields(documentedConstants) {
+	for _, s := range strings.Fields(sample.Constants) {
 		valid = append(valid, op(api.EUnary, s))
 	}
-	for _, s := range strings.Fields(documentedUnary) {
+	for _, s := range strings.Fields(sample.Unary) {
 		valid = append(valid, op(api.EUnary, s, a), op(api.EUnary, s, number(1, 1)), op(api.EUnary, s, route(2, 1, false)))
 	}
-	for _, s := range strings.Fields(documentedProducts + " " + documentedSums + " " + documentedComparisons + " = " + documentedOf) {
+	for _, s := range strings.Fields(sample.Products + " " + sample.Sums + " " + sample.Comparisons + " = " + sample.Of) {
 		valid = append(valid, op(api.EBinary, s, a, a), op(api.EBinary, s, number(1, 1), op(api.EBinary, "=", a, a)))
 	}
 	r := newRandom()
@@ -220,7 +221,7 @@ func TestSame(t *testing.T) {
 	}
 	r := newRandom()
 	for range 20000 {
-		x := r.tree(1 + r.IntN(5))
+		x := r.Expr(1 + r.IntN(5))
 		y := r.moved(x)
 		if !expr.Same(x, y) || !expr.Same(y, x) || !expr.Same(x, x) {
 			t.Fatalf("%s is not the same as it is elsewhere", dump(x, false))
@@ -302,7 +303,7 @@ func TestTagsSize(t *testing.T) {
 	}
 	r := newRandom()
 	for range 5000 {
-		x := r.tree(1 + r.IntN(5))
+		x := r.Expr(1 + r.IntN(5))
 		nodes := nodesOf(&x)
 		var want []string
 		for _, k := range nodes {
@@ -323,23 +324,23 @@ func TestTagsSize(t *testing.T) {
 func TestChanged(t *testing.T) {
 	r := newRandom()
 	for range 20000 {
-		x := copied(r.tree(1 + r.IntN(4)))
+		x := copied(r.Expr(1 + r.IntN(4)))
 		nodes := nodesOf(&x)
 		k := nodes[r.IntN(len(nodes))]
 		switch r.IntN(6) {
 		case 0:
 			k.Op = api.ExprOp(r.IntN(10))
 		case 1:
-			k.Text = r.one(documentedUnary + " " + documentedConstants + " " + documentedProducts + " " + documentedOf + " of cycle =: a")
+			k.Text = r.One(sample.Unary + " " + sample.Constants + " " + sample.Products + " " + sample.Of + " of cycle =: a")
 		case 2:
-			k.Kids = r.trees(r.IntN(4), 1)
+			k.Kids = r.Exprs(r.IntN(4), 1)
 		case 3:
 			k.Cycle = !k.Cycle
 		case 4:
 			k.Num = api.Num{P: r.Int64N(5) - 1, Q: r.Int64N(4)}
 		case 5:
 			if len(k.Joins) > 0 {
-				k.Joins[r.IntN(len(k.Joins))] = api.Join{Op: api.JoinOp(r.IntN(3)), A: r.trees(r.IntN(4), 1), Leave: api.Dir{Op: api.DirOp(r.IntN(3)), E: r.trees(r.IntN(2), 1)}}
+				k.Joins[r.IntN(len(k.Joins))] = api.Join{Op: api.JoinOp(r.IntN(3)), A: r.Exprs(r.IntN(4), 1), Leave: api.Dir{Op: api.DirOp(r.IntN(3)), E: r.Exprs(r.IntN(2), 1)}}
 			}
 		}
 		valid := expr.Valid(x)

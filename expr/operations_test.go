@@ -6,21 +6,12 @@ import (
 
 	"fleuron/api"
 	"fleuron/expr"
-)
-
-// The operations as DOC.md lists them.
-const (
-	documentedUnary       = "+ - not known unknown odd floor abs sqrt sind cosd angle dir length xpart ypart xxpart xypart yxpart yypart inverse decimal char code reverse"
-	documentedOf          = "point direction subpath precontrol postcontrol"
-	documentedConstants   = "true false identity pencircle pensquare"
-	documentedProducts    = "* / ** and mod dotprod scaled xscaled yscaled shifted rotated slanted transformed"
-	documentedSums        = "+ - ++ +-+ or"
-	documentedComparisons = "< <= > >= <> &"
+	"fleuron/sample"
 )
 
 // P5.1: operations of one, and those with of.
 func TestUnary(t *testing.T) {
-	for _, op := range strings.Fields(documentedUnary) {
+	for _, op := range strings.Fields(sample.Unary) {
 		reads(t, true, []reading{{"b+ " + op + " a", "(+@1 b@1 (" + op + "@4 a" + column(5+len(op)) + "))"}})
 		reads(t, false, []reading{
 			{op + " " + op + " a", "(" + op + " (" + op + " a))"},
@@ -30,7 +21,7 @@ func TestUnary(t *testing.T) {
 		})
 		fails(t, []failing{{op, early(1)}, {op + " *a", syntax("*", len(op)+2)}, {op + " )", syntax(")", len(op)+2)}})
 	}
-	for _, op := range strings.Fields(documentedOf) {
+	for _, op := range strings.Fields(sample.Of) {
 		reads(t, true, []reading{{"b+ " + op + " a of c", "(+@1 b@1 (" + op + "@4 a" + column(5+len(op)) + " c" + column(10+len(op)) + "))"}})
 		reads(t, false, []reading{
 			{op + " a+b of c+d", "(+ (" + op + " (+ a b) c) d)"},
@@ -52,7 +43,7 @@ func column(n int) string { return dump(api.Expr{Op: api.EVar, Line: 1, Col: n},
 
 // P5.1 and P5.8: operations between two, how they bind, and that they go to the left.
 func TestBinary(t *testing.T) {
-	ranks := []string{documentedComparisons, documentedSums, documentedProducts}
+	ranks := []string{sample.Comparisons, sample.Sums, sample.Products}
 	for rank, ops := range ranks {
 		for _, op := range strings.Fields(ops) {
 			reads(t, true, []reading{{"(a) " + op + " b", "(" + op + "@2 a@2 b" + column(6+len(op)) + ")"}})

@@ -3,6 +3,7 @@ package expr
 import (
 	"fleuron/api"
 	"fleuron/cursor"
+	"fleuron/tree"
 )
 
 // parser is at a place of tokens, all of them valid.
@@ -72,12 +73,12 @@ func (p *parser) expr(cond bool) api.Expr {
 	case cond:
 		return p.chain(x, isComparisonOrEqual, p.tert)
 	}
-	return p.chain(x, isComparison, p.tert)
+	return p.chain(x, tree.IsComparison, p.tert)
 }
 
-func (p *parser) tert() api.Expr { return p.chain(p.sec(), isSum, p.sec) }
+func (p *parser) tert() api.Expr { return p.chain(p.sec(), tree.IsSum, p.sec) }
 
-func (p *parser) sec() api.Expr { return p.chain(p.prim(), isProduct, p.prim) }
+func (p *parser) sec() api.Expr { return p.chain(p.prim(), tree.IsProduct, p.prim) }
 
 // chain parses what follows a first operand: operations that fit, each with one more operand.
 func (p *parser) chain(x api.Expr, fits func(s string) bool, operand func() api.Expr) api.Expr {
@@ -87,3 +88,9 @@ func (p *parser) chain(x api.Expr, fits func(s string) bool, operand func() api.
 	}
 	return x
 }
+
+// isComparisonOrEqual reports whether a sign stands in a condition between its parts.
+func isComparisonOrEqual(s string) bool { return s == "=" || tree.IsComparison(s) }
+
+// isJoin reports whether a join begins with a sign.
+func isJoin(s string) bool { return s == ".." || s == "--" || s == "{" }

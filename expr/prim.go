@@ -4,6 +4,7 @@ import (
 	"fleuron/api"
 	"fleuron/cursor"
 	"fleuron/num"
+	"fleuron/tree"
 )
 
 // prim parses what binds most: everything between two operations.
@@ -30,9 +31,9 @@ func (p *parser) unmediated() api.Expr {
 	switch {
 	case s == "(":
 		return p.inBrackets()
-	case isUnary(s):
+	case tree.IsUnary(s):
 		return p.unary()
-	case isOf(s):
+	case tree.IsOf(s):
 		return p.of()
 	}
 	t := p.Take()
@@ -43,7 +44,7 @@ func (p *parser) unmediated() api.Expr {
 		return p.number(t)
 	case t.Kind == api.TokText:
 		return beginning(t, api.EText, t.Text)
-	case !isConstant(s):
+	case !tree.IsConstant(s):
 		cursor.Fail(api.ErrSyntax, t)
 	}
 	return beginning(t, api.EUnary, t.Text)
@@ -153,7 +154,7 @@ func (p *parser) factorAhead() bool {
 	case api.TokName, api.TokText:
 		return true
 	case api.TokWord:
-		return isConstant(t.Text) || isUnary(t.Text) || isOf(t.Text)
+		return tree.IsConstant(t.Text) || tree.IsUnary(t.Text) || tree.IsOf(t.Text)
 	case api.TokSign:
 		return t.Text == "("
 	}

@@ -6,111 +6,19 @@ import (
 	"strings"
 
 	"fleuron/api"
+	"fleuron/sample"
 )
 
 // random makes expressions and tokens of which nobody has thought.
-type random struct{ *rand.Rand }
-
-func newRandom() random { return random{rand.New(rand.NewPCG(9, 10))} }
-
-// one returns one of the words of a string.
-func (r random) one(words string) string {
-	l := strings.Fields(words)
-	return l[r.IntN(len(l))]
+type random struct {
+	*rand.Rand
+	sample.Maker
 }
 
-// num returns a number of which P and Q are small, or at most as great as they can be.
-func (r random) num() api.Num {
-	top := []int64{2, 10, 1000, api.MaxNum}[r.IntN(4)]
-	p, q := r.Int64N(top+1), 1+r.Int64N(top)
-	for a, b := p, q; ; a, b = b, a%b {
-		if b == 0 {
-			return api.Num{P: p / a, Q: q / a}
-		}
-	}
-}
-
-// trees returns count expressions.
-func (r random) trees(count, depth int) []api.Expr {
-	var l []api.Expr
-	for range count {
-		l = append(l, r.tree(depth))
-	}
-	return l
-}
-
-// tree returns a valid expression whose nodes are at most so deep.
-func (r random) tree(depth int) api.Expr {
-	kind := r.IntN(12)
-	if depth <= 1 {
-		kind = r.IntN(4)
-	}
-	switch kind {
-	case 0:
-		return api.Expr{Op: api.ENum, Num: r.num()}
-	case 1:
-		return api.Expr{Op: api.EText, Text: []string{"", "a", "+ (", strings.Repeat("~", 100)}[r.IntN(4)]}
-	case 2:
-		return api.Expr{Op: api.EUnary, Text: r.one(documentedConstants)}
-	case 3, 4:
-		return r.variable(depth)
-	case 5:
-		return api.Expr{Op: api.EPair, Kids: r.trees(2, depth-1)}
-	case 6:
-		return api.Expr{Op: api.EUnary, Text: r.one(documentedUnary), Kids: r.trees(1, depth-1)}
-	case 7:
-		return api.Expr{Op: api.EBetween, Kids: r.trees(3, depth-1)}
-	case 8:
-		return r.path(depth)
-	case 9:
-		return api.Expr{Op: api.EBinary, Text: r.one("/ * = " + documentedOf), Kids: r.trees(2, depth-1)}
-	}
-	return api.Expr{Op: api.EBinary, Text: r.one(documentedProducts + " " + documentedSums + " " + documentedComparisons), Kids: r.trees(2, depth-1)}
-}
-
-// name returns a name of variables; some are spelled as words.
-func (r random) name() string { return r.one("a b c x_ Z and true point " + strings.Repeat("n", 40)) }
-
-func (r random) variable(depth int) api.Expr {
-	x := api.Expr{Op: api.EVar, Text: r.name()}
-	for depth > 1 && r.IntN(2) == 0 {
-		if r.IntN(3) == 0 {
-			x.Kids = append(x.Kids, api.Expr{Op: api.EDot, Text: r.name()})
-		} else {
-			x.Kids = append(x.Kids, r.tree(depth-1))
-		}
-	}
-	return x
-}
-
-func (r random) path(depth int) api.Expr {
-	x := api.Expr{Op: api.EPath, Cycle: r.IntN(2) == 0, Kids: r.trees(1+r.IntN(3), depth-1)}
-	if !x.Cycle {
-		x.Kids = append(x.Kids, r.tree(depth-1))
-	}
-	joins := len(x.Kids)
-	if !x.Cycle {
-		joins--
-	}
-	for range joins {
-		j := api.Join{Op: api.JLine}
-		switch r.IntN(3) {
-		case 0:
-			j = api.Join{Op: api.JCurve, A: r.trees(r.IntN(3), depth-1), Leave: r.dir(depth), Come: r.dir(depth)}
-		case 1:
-			j = api.Join{Op: api.JControls, A: r.trees(1+r.IntN(2), depth-1), Leave: r.dir(depth), Come: r.dir(depth)}
-		}
-		x.Joins = append(x.Joins, j)
-	}
-	return x
-}
-
-func (r random) dir(depth int) api.Dir {
-	op := []api.DirOp{api.DirNone, api.DirTo, api.DirCurl}[r.IntN(3)]
-	if op == api.DirNone {
-		return api.Dir{}
-	}
-	return api.Dir{Op: op, E: r.trees(1, depth-1)}
+func newRandom() random {
+	r := rand.New(rand.NewPCG(9, 10))
+	// Some names are spelled as words.
+	return random{r, sample.Maker{Pick: r.IntN, Names: "a b c x_ Z and true point " + strings.Repeat("n", 40)}}
 }
 
 // writer writes expressions as tokens, each on a line or in a column of its own. It sets brackets where they are needed, and sometimes more.
@@ -162,13 +70,13 @@ func rank(x api.Expr) int {
 	switch {
 	case x.Op == api.EPath:
 		return asExpr
-	case x.Op != api.EBinary || is(documentedOf):
+	case x.Op != api.EBinary || is(sample.Of):
 		return asPrim
-	case is(documentedProducts):
+	case is(sample.Products):
 		return asSec
-	case is(documentedSums):
+	case is(sample.Sums):
 		return asTert
-	case is(documentedComparisons):
+	case is(sample.Comparisons):
 		return asExpr
 	}
 	return asCond
@@ -259,7 +167,7 @@ func (w *writer) variable(x *api.Expr) {
 
 func (w *writer) binary(x *api.Expr, as int) {
 	a, b := x.Kids[0], x.Kids[1]
-	if slices.Contains(strings.Fields(documentedOf), x.Text) {
+	if slices.Contains(strings.Fields(sample.Of), x.Text) {
 		x.Line, x.Col = w.mark(x.Text)
 		a = w.write(a, asExpr)
 		w.mark("of")

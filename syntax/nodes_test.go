@@ -207,7 +207,7 @@ func (r random) change(s *api.Stmt) {
 	case 0:
 		s.Op = api.StmtOp(r.IntN(20))
 	case 1:
-		s.Text = r.one("fill evenfill draw clip evenclip unclip numeric pair path i j if ; show := a1 begingroup")
+		s.Text = r.One("fill evenfill draw clip evenclip unclip numeric pair path i j if ; show := a1 begingroup")
 	case 2:
 		s.Text = ""
 	case 3:
@@ -223,7 +223,7 @@ func (r random) change(s *api.Stmt) {
 	case 8:
 		s.Rules = rules(r.IntN(2))
 		for i := range s.Rules {
-			s.Rules[i].Text, s.Rules[i].Value = r.one("kern = =: |=: =:| |=:| := fill"), tag("b")
+			s.Rules[i].Text, s.Rules[i].Value = r.One("kern = =: |=: =:| |=:| := fill"), tag("b")
 		}
 	case 9:
 		s.Line, s.Col = int(r.Int64()), -1

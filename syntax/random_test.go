@@ -11,6 +11,7 @@ import (
 	"fleuron/api"
 	"fleuron/expr"
 	"fleuron/lex"
+	"fleuron/sample"
 )
 
 // samples are expressions of many kinds and lengths; the first ones are tags, the next ones variables with suffixes, the last ones conditions alone.
@@ -27,12 +28,14 @@ func samples() (tags, variables, others, conditions []string) {
 // random makes programs of which nobody has thought.
 type random struct {
 	*rand.Rand
+	sample.Maker
 	tags, variables, exprs, conds []api.Expr
 	pool                          map[string]tokens // of each expression its tokens
 }
 
 func newRandom(t *testing.T) random {
-	r := random{Rand: rand.New(rand.NewPCG(9, 10)), pool: map[string]tokens{}}
+	numbers := rand.New(rand.NewPCG(9, 10))
+	r := random{Rand: numbers, Maker: sample.Maker{Pick: numbers.IntN, Names: "i j fill endfor"}, pool: map[string]tokens{}}
 	add := func(l []string) (out []api.Expr) {
 		for _, s := range l {
 			k := parsed(t, s)
@@ -58,78 +61,21 @@ var positions = regexp.MustCompile(`Line:-?\d+ Col:-?\d+`)
 // shape writes all that there is in an expression, or in statements, but positions.
 func shape(x any) string { return positions.ReplaceAllString(fmt.Sprintf("%+v", x), "") }
 
-// some returns from least to most expressions.
-func (r random) some(l []api.Expr, least, most int) []api.Expr {
-	var out []api.Expr
-	for range least + r.IntN(most-least+1) {
-		out = append(out, l[r.IntN(len(l))])
-	}
-	return out
-}
+// any returns an expression of a list.
+func (r random) any(l []api.Expr) api.Expr { return l[r.IntN(len(l))] }
 
-// one returns one of the words of a string.
-func (r random) one(words string) string {
-	l := strings.Fields(words)
-	return l[r.IntN(len(l))]
+// some returns from least to most of a list's expressions.
+func (r random) some(l []api.Expr, least, most int) []api.Expr {
+	return r.List(func() api.Expr { return r.any(l) }, least, most)
 }
 
 // program returns up to three statements that are nested at most so deep.
 func (r random) program(depth int) []api.Stmt {
-	var l []api.Stmt
-	for range r.IntN(4) {
-		l = append(l, r.statement(depth))
-	}
-	return l
-}
-
-// statement returns a valid statement.
-func (r random) statement(depth int) api.Stmt {
-	s := api.Stmt{Op: api.StmtOp(r.IntN(int(api.SShow) + 1))}
-	bodies := 0
-	switch s.Op {
-	case api.SEquals:
-		s.Exprs = r.some(r.conds, 2, 4)
-	case api.SAssign:
-		s.Exprs = append(r.some(r.variables, 1, 1), r.some(r.conds, 1, 1)...)
-	case api.SDeclare:
-		s.Text, s.Exprs = r.one("numeric pair boolean string transform path pen"), r.some(r.tags, 1, 4)
-	case api.SSave:
-		s.Exprs = r.some(r.tags, 1, 4)
-	case api.SIf:
-		s.Exprs = r.some(r.conds, 1, 3)
-		bodies = len(s.Exprs) + r.IntN(2)
-	case api.SFor:
-		s.Text, s.Exprs, bodies = r.one("i j fill endfor"), r.some(r.conds, 3, 3), 1
-	case api.SEach:
-		s.Text, s.Exprs, bodies = r.one("i j fill endfor"), r.some(r.conds, 1, 4), 1
-	case api.SForever, api.SGroup:
-		bodies = 1
-	case api.SChar:
-		s.Exprs, bodies = r.some(r.conds, 4, 4), 1
-	case api.SFill:
-		s.Text, s.Exprs, s.Ink = r.one("fill evenfill"), r.some(r.conds, 1, 3), r.some(r.conds, 0, 1)
-	case api.SDraw:
-		s.Text, s.Exprs, s.Ink = "draw", r.some(r.conds, 1, 3), r.some(r.conds, 0, 1)
-	case api.SClip:
-		s.Text, s.Exprs = r.one("clip evenclip"), r.some(r.conds, 1, 3)
-	case api.SExit, api.SPickup, api.SMessage:
-		s.Exprs = r.some(r.conds, 1, 1)
-	case api.SLig:
-		s.Exprs = r.some(r.conds, 1, 1)
-		for range 1 + r.IntN(3) {
-			k := r.some(r.conds, 2, 2)
-			s.Rules = append(s.Rules, api.Rule{Text: r.one("kern =: |=: =:| |=:|"), Next: k[0], Value: k[1]})
-		}
-	case api.SShow:
-		s.Exprs = r.some(r.conds, 1, 4)
-	}
-	if bodies > 0 && depth <= 1 {
-		return r.statement(depth)
-	}
-	for range bodies {
-		s.Bodies = append(s.Bodies, r.program(depth-1))
-	}
-	return s
+	return r.Program(depth, sample.Parts{
+		Tag:      func() api.Expr { return r.any(r.tags) },
+		Variable: func() api.Expr { return r.any(r.variables) },
+		Expr:     func() api.Expr { return r.any(r.conds) },
+	})
 }
 
 // writer writes statements as tokens, each on a line or in a column of its own. What a statement is written as depends on its kind alone, whether it is valid or not.

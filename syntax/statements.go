@@ -8,24 +8,6 @@ import (
 	"fleuron/lex"
 )
 
-// visit calls see with statements and all that they contain, as long as see returns true, and reports whether it always did.
-func visit(l []api.Stmt, see func(s api.Stmt) bool) bool {
-	// It does not call itself, so that statements may be nested to any depth.
-	waiting := [][]api.Stmt{l}
-	for len(waiting) > 0 {
-		last := len(waiting) - 1
-		body := waiting[last]
-		waiting = waiting[:last]
-		for _, s := range body {
-			if !see(s) {
-				return false
-			}
-			waiting = append(waiting, s.Bodies...)
-		}
-	}
-	return true
-}
-
 // alike reports whether two statements differ at most in positions and in what stands within them.
 func alike(a, b api.Stmt) bool {
 	return a.Op == b.Op && a.Text == b.Text && len(a.Bodies) == len(b.Bodies) && slices.EqualFunc(a.Exprs, b.Exprs, expr.Same) &&
